@@ -82,6 +82,32 @@ func (p *Parser) Enclosed(part func() (api.Pat, bool)) (api.Pat, bool) {
 	return x, ok && p.Must(p.Sign(")"))
 }
 
+// Many makes x a PMany, if how many there are stands behind it; alone tells whether one number may stand for both.
+func (p *Parser) Many(x *api.Pat, alone bool) bool {
+	switch {
+	case p.Sign("+"):
+		x.K, x.Lo = api.PMany, 1
+	case p.Sign("{"):
+		var lo, hi int64
+		ok := p.counts(&lo, &hi, alone)
+		x.K, x.Lo, x.Hi = api.PMany, int(lo), int(hi)
+		return ok
+	}
+	return true
+}
+
+// counts reads what stands behind a { that was taken.
+func (p *Parser) counts(lo, hi *int64, alone bool) bool {
+	if !p.MustInt(1, api.MaxMany, lo) {
+		return false
+	}
+	if alone && p.Sign("}") {
+		*hi = *lo
+		return true
+	}
+	return p.Must(p.Sign(",")) && (p.Sign("}") || p.MustInt(1, api.MaxMany, hi) && p.Must(p.Sign("}")))
+}
+
 // Row reads one, and then others, as long as more tells that one must come.
 func Row[T any](one func() (T, bool), more func() bool) ([]T, bool) {
 	var l []T
@@ -190,6 +216,17 @@ func Right(q api.Query) api.Errno {
 // Has tells whether p, or a part of it, is such a node.
 func Has(p api.Pat, such func(api.Pat) bool) bool {
 	return such(p) || slices.ContainsFunc(p.L, func(part api.Pat) bool { return Has(part, such) })
+}
+
+// CountsText is how many of a PMany there are, in two numbers.
+func CountsText(lo, hi int) string {
+	switch {
+	case hi != 0:
+		return "{" + strconv.Itoa(lo) + "," + strconv.Itoa(hi) + "}"
+	case lo != 1:
+		return "{" + strconv.Itoa(lo) + ",}"
+	}
+	return "+"
 }
 
 // Text has the clauses that are not empty with a blank between.
