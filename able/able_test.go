@@ -250,7 +250,8 @@ func wantNoted(t *testing.T, q api.Query, want []string) {
 			t.Errorf("Notes(%d, %s): %q; it says that: %v", d, said(q), told(l), says(d, q))
 		}
 	}
-	if l := able.Best(q); !slices.Equal(l, best) {
+	// The second dialect says no Mode but any, and the third not that.
+	if l := able.Best(q); !slices.Equal(l, best) || len(l) == len(dialects) {
 		t.Errorf("Best(%s): %v, want %v", said(q), l, best)
 	}
 	if !query.Same(q, was) {
@@ -801,7 +802,7 @@ func TestNotes(t *testing.T) {
 	wantNotes(t, api.DMr, api.Query{P: and(or(a, b), c, seq(d, not("e"), f)), Mode: api.MStrict}, "0 deep; 2 deep; 2.1 not")
 }
 
-// TestBest: no query is said by all three, as the second says no Mode but any, and the third not that.
+// TestBest: those of two, one and none; no query is said by all three.
 func TestBest(t *testing.T) {
 	full, _ := some(a, api.MAny, 15)
 	for _, w := range []struct {
