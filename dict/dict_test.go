@@ -651,6 +651,20 @@ func TestReadOfEachMost(t *testing.T) {
 	}
 }
 
+// Each most that New takes, beside bytes that are right and some that are not.
+func TestReadOfAllMosts(t *testing.T) {
+	for most := range api.MaxEvents + 1 {
+		wantHas(t, made(t, most))
+		wantHas(t, wantRead(t, []byte{0}, most))
+		wantRefused(t, "", most, api.ErrShort)
+		wantRefused(t, "\x80\x00", most, api.ErrForm)
+		wantRead(t, []byte("\x02\x01a\x00"), most)
+		wantRead(t, []byte("\x02\x00\x00"), most)
+		wantRead(t, binary.AppendUvarint(nil, uint64(most)), most)
+		wantRefused(t, string(binary.AppendUvarint(nil, uint64(most+1))), most, api.ErrForm)
+	}
+}
+
 func TestReadOfNoReader(t *testing.T) {
 	for name, r := range noReaders() {
 		for _, most := range []int{0, 1, api.MaxEvents} {
